@@ -91,36 +91,89 @@ func TestPlaceRefusals(t *testing.T) {
 	wantTree(t, "nothing is dirty and nothing free", impl.Place(draw("a^9b:5"), 1, all).Tree, draw("a^9b:5"))
 }
 
+// wantNumbers asks for what the document says of the numbers, whatever the pages are: each was free, and the smallest free one.
+func wantNumbers(t *testing.T, what string, x impl.Tree, taken []int64, got impl.Placed) {
+	t.Helper()
+	used := standing(x)
+	for _, num := range taken {
+		used[num]++
+	}
+	dirty := 0
+	for _, n := range x.Nodes {
+		if n.Page == 0 {
+			dirty++
+		}
+		for i, over := range n.Over {
+			if size := len(n.Vals[i]); over == 0 && size > impl.InlineMax {
+				dirty += (size + impl.OverBytes - 1) / impl.OverBytes
+			}
+		}
+	}
+	if len(got.Nums) != dirty || len(got.Pages) != dirty {
+		t.Errorf("%s: %d numbers, %d pages for %d that are dirty", what, len(got.Nums), len(got.Pages), dirty)
+	}
+	smallest := int64(2)
+	for _, num := range got.Nums {
+		for used[smallest] > 0 {
+			smallest++
+		}
+		if num != smallest || num >= impl.CapMax {
+			t.Errorf("%s: %d was given, %d was free", what, num, smallest)
+		}
+		used[num]++
+	}
+}
+
+// wantOrder goes through the pages in the order in which they were given: what a page names stood before it or was given before it.
+func wantOrder(t *testing.T, what string, got impl.Placed) {
+	t.Helper()
+	at := map[int64]int{}
+	for i, num := range got.Nums {
+		at[num] = i + 1
+	}
+	for i, p := range got.Pages {
+		here := i + 1
+		if p.Kind == impl.POver && p.Next != 0 && at[p.Next] != here+1 {
+			t.Errorf("%s: the piece behind page %d is not the next", what, got.Nums[i])
+		}
+		for _, e := range p.Ents {
+			if at[e.Over] >= here {
+				t.Errorf("%s: leaf %d ahead of a value of it", what, got.Nums[i])
+			}
+		}
+		last := 0
+		for _, k := range p.Kids {
+			if kid := at[k.Page]; kid > 0 {
+				if kid >= here || kid <= last {
+					t.Errorf("%s: the children of %d are not ahead of it, from left to right", what, got.Nums[i])
+				}
+				last = kid
+			}
+		}
+	}
+}
+
 func TestPlacedNumbers(t *testing.T) {
 	r := newDice(41)
 	for i := range 600 {
 		x := r.tree(int(r.pick(0, 1, 5, 20, 60)))
-		var taken []int64
-		for range r.Intn(40) {
-			taken = append(taken, r.pick(r.Int63n(60), r.number(), -3, 5000))
-		}
+		taken := r.takenList()
 		got := impl.Place(x, 5, taken)
-		used := map[int64]int{}
-		for _, num := range taken {
-			used[num]++
-		}
-		for _, n := range x.Nodes {
-			used[n.Page]++
-			for _, over := range n.Over {
-				used[over]++
+		what := fmt.Sprint("round ", i)
+		wantNumbers(t, what, x, taken, got)
+		wantOrder(t, what, got)
+		for j, p := range got.Pages {
+			if p.Tx != 5 || len(impl.EncodePage(p)) == 0 {
+				t.Errorf("%s: number %d of %+v", what, got.Nums[j], p)
 			}
-		}
-		for j, num := range got.Nums {
-			if num < 2 || num > impl.CapMax-1 || used[num] > 0 || len(impl.EncodePage(got.Pages[j])) == 0 {
-				t.Errorf("round %d: number %d of %+v", i, num, got.Pages[j])
-			}
-			used[num]++
 		}
 		if !impl.ValidTree(got.Tree) || !slices.Equal(modelPairs(got.Tree), modelPairs(x)) {
-			t.Errorf("round %d: %s", i, show(got.Tree))
+			t.Errorf("%s: %s", what, show(got.Tree))
 		}
-		wantKept(t, fmt.Sprint("round ", i), got.Tree, x)
-		callCleanly(t, "Place", impl.Place, x, int64(5), taken)
+		wantKept(t, what, got.Tree, x)
+		if again := impl.Place(got.Tree, 6, taken); len(again.Nums) > 0 || !sameTree(again.Tree, got.Tree) {
+			t.Errorf("%s: placed twice: %d", what, again.Nums)
+		}
 		if t.Failed() {
 			t.Fatalf("%s, taken %d", show(x), taken)
 		}

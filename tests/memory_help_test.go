@@ -11,6 +11,9 @@ type stretch struct {
 	path     string
 }
 
+// plain elements hold no list. Files are long lists of such, so they are copied at once.
+func plain(t reflect.Type) bool { return t.Kind() != reflect.Slice && t.Kind() != reflect.Struct }
+
 // stretches are those of all lists in a value, with all the room that they have.
 func stretches(v reflect.Value, path string) []stretch {
 	var out []stretch
@@ -20,6 +23,9 @@ func stretches(v reflect.Value, path string) []stretch {
 			out = append(out, stretch{v.Pointer(), v.Pointer() + uintptr(v.Cap())*v.Type().Elem().Size(), path})
 		}
 		for i := range v.Len() {
+			if plain(v.Type().Elem()) {
+				break
+			}
 			out = append(out, stretches(v.Index(i), path+"[]")...)
 		}
 	case reflect.Struct:
@@ -39,8 +45,10 @@ func roomy(v reflect.Value) reflect.Value {
 	case reflect.Slice:
 		n := v.Len()
 		list := reflect.MakeSlice(v.Type(), n+3, n+3)
-		for i := range n {
-			list.Index(i).Set(roomy(v.Index(i)))
+		if reflect.Copy(list, v); !plain(v.Type().Elem()) {
+			for i := range n {
+				list.Index(i).Set(roomy(v.Index(i)))
+			}
 		}
 		for i := n; i < n+3; i++ {
 			mark(list.Index(i))
@@ -80,8 +88,10 @@ func frozen(v reflect.Value) reflect.Value {
 	case reflect.Slice:
 		whole := v.Slice(0, v.Cap())
 		list := reflect.MakeSlice(v.Type(), whole.Len(), whole.Len())
-		for i := range whole.Len() {
-			list.Index(i).Set(frozen(whole.Index(i)))
+		if reflect.Copy(list, whole); !plain(v.Type().Elem()) {
+			for i := range whole.Len() {
+				list.Index(i).Set(frozen(whole.Index(i)))
+			}
 		}
 		out.Set(list)
 	case reflect.Struct:
