@@ -158,9 +158,6 @@ type reading struct {
 func modelLoad(d impl.Disk, name string, root int64) impl.LoadRes {
 	seen, _ := modelSeen(d)
 	r := &reading{files: seen, name: name, times: map[int64]int{}}
-	if root < 2 || root >= impl.CapMax {
-		return impl.LoadRes{}
-	}
 	r.node(root)
 	var pages []int64
 	for num := range int64(impl.CapMax) {

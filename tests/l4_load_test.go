@@ -33,6 +33,13 @@ func longSheaf() sheaf {
 	}
 }
 
+// moved has one page on another number; nothing else is told of it.
+func (s sheaf) moved(from, to int64) sheaf {
+	out := s.with(to, s[from])
+	delete(out, from)
+	return out
+}
+
 // deepSheaf is "((ab:9 cd:8):7 (ef:6 gh:5):4):3".
 func deepSheaf() sheaf {
 	return sheaf{
@@ -65,6 +72,15 @@ func TestLoadRows(t *testing.T) {
 			9:  overPage(6, longVal("a")[:96]), 6: overPage(0, "aaaa"), 8: overPage(7, longVal("b")[:96]), 7: overPage(0, "bbbb"),
 			3: overPage(5, longVal("c")[:96]), 5: overPage(0, "cccc"), 2: overPage(4, longVal("d")[:96]), 4: overPage(0, "dddd"),
 		}, 20, "a^9b^8c^3d^2:20", []int64{2, 3, 4, 5, 6, 7, 8, 9, 20}},
+		{"an empty leaf on page 0", sheaf{0: leafPage()}, 0, "", []int64{0}},
+		{"a leaf of one key on page 0", sheaf{0: lettersLeaf("a"), 1: lettersLeaf("b"), 2: lettersLeaf("c")}, 0, "a", []int64{0}},
+		{"a full leaf on page 0", sheaf{0: lettersLeaf("abcd")}, 0, "abcd", []int64{0}},
+		{"a leaf with a long value on page 0", longSheaf().moved(2, 0), 0, "c^7d", []int64{0, 7, 8}},
+		{"a branch on page 0", smallSheaf().moved(4, 0), 0, "(ab:3 cd:2)", []int64{0, 2, 3}},
+		{"a branch on page 0, and again on its own", smallSheaf().with(0, smallSheaf()[4]), 0, "(ab:3 cd:2)", []int64{0, 2, 3}},
+		{"a branch over long values on page 0", longSheaf().moved(4, 0), 0, "(a^5b:3 c^7d:2)", []int64{0, 2, 3, 5, 6, 7, 8}},
+		{"three levels from page 0 on", deepSheaf().moved(3, 0), 0, "((ab:9 cd:8):7 (ef:6 gh:5):4)", []int64{0, 4, 5, 6, 7, 8, 9}},
+		{"the last page number below page 0", sheaf{0: branchPage(kid("", 2), kid("c", 999)), 2: lettersLeaf("ab"), 999: lettersLeaf("cd")}, 0, "(ab:2 cd:999)", []int64{0, 2, 999}},
 	} {
 		wantLoad(t, row.what, row.pages.disk(), row.root, draw(row.picture), row.nums)
 		wantLoad(t, row.what+", in the cache alone", row.pages.codes().cached(), row.root, draw(row.picture), row.nums)
@@ -81,21 +97,30 @@ func TestLoadRows(t *testing.T) {
 }
 
 func TestLoadRoots(t *testing.T) {
-	// Codes of leaves on pages 0 and 1, too: they are no page numbers, whatever stands there.
+	// Neither 0 nor 1 is a page number, but a Page may be 0: of the leaves there, only that on page 1 makes no valid tree.
 	leaf := lettersLeaf("ab")
 	d := sheaf{0: leaf, 1: leaf, 2: leaf, 9: leaf}.disk()
 	wantLoad(t, "a page", d, 9, draw("ab:9"), []int64{9})
-	for _, root := range []int64{-1 << 63, -1, 0, 1, 3, 10, 11, 999, 1000, 1001, 1<<32 + 2, 1<<63 - 1} {
+	wantLoad(t, "page 0", d, 0, draw("ab"), []int64{0})
+	for _, root := range []int64{-1 << 63, -1 << 32, -2, -1, 1, 3, 10, 11, 999, 1000, 1001, 1 << 32, 1<<32 + 2, 1<<63 - 1} {
 		wantNoLoad(t, fmt.Sprint("root ", root), d, "f", root)
+	}
+	for _, s := range []sheaf{{1: leafPage()}, smallSheaf().moved(4, 1), longSheaf().moved(2, 1), longSheaf().moved(4, 1), deepSheaf().moved(3, 1)} {
+		wantNoLoad(t, "page 1", s.disk(), "f", 1)
+		wantNoLoad(t, "zeros on page 0", s.disk(), "f", 0)
 	}
 	full := d
 	full.Files = []impl.File{{Name: "f", Data: []byte(strings.Repeat(string(modelNew(stamped(leaf, 1))), impl.CapMax))}}
 	wantLoad(t, "the last page", full, 999, draw("ab:999"), []int64{999})
+	wantLoad(t, "the first page", full, 0, draw("ab"), []int64{0})
+	wantNoLoad(t, "the second page", full, "f", 1)
 	wantNoLoad(t, "behind the last page", full, "f", 1000)
 	for _, name := range append([]string{"g", "e", "ff", "F"}, noNames...) {
 		wantNoLoad(t, fmt.Sprintf("file %q", name), d, name, 2)
+		wantNoLoad(t, fmt.Sprintf("file %q from page 0 on", name), d, name, 0)
 	}
 	wantNoLoad(t, "no files", impl.DiskNew(100), "f", 2)
+	wantNoLoad(t, "no files, from page 0 on", impl.DiskNew(100), "f", 0)
 	for _, row := range invalidDisks() {
 		for _, name := range []string{"a", "b", "f"} {
 			for root := range int64(4) {
@@ -106,6 +131,7 @@ func TestLoadRoots(t *testing.T) {
 	spoilt := d
 	spoilt.Cap = 9
 	wantNoLoad(t, "more pages than Cap", spoilt, "f", 2)
+	wantNoLoad(t, "more pages than Cap, from page 0 on", spoilt, "f", 0)
 	beside := d
 	beside.Files = append([]impl.File{{Name: "e", Data: sheaf{2: lettersLeaf("cd"), 3: lettersLeaf("ef")}.codes().data()}}, d.Files...)
 	wantLoad(t, "beside another file", beside, 2, draw("ab:2"), []int64{2})
@@ -130,7 +156,7 @@ func TestLoadOfWrongPages(t *testing.T) {
 	for _, row := range []struct {
 		pages sheaf
 		root  int64
-	}{{smallSheaf(), 4}, {longSheaf(), 4}, {deepSheaf(), 3}, {sheaf{2: leafPage()}, 2}} {
+	}{{smallSheaf(), 4}, {longSheaf(), 4}, {deepSheaf(), 3}, {sheaf{2: leafPage()}, 2}, {sheaf{0: leafPage()}, 0}, {smallSheaf().moved(4, 0), 0}, {longSheaf().moved(4, 0), 0}, {deepSheaf().moved(3, 0), 0}} {
 		for num, p := range row.pages {
 			c := row.pages.codes()
 			for what, b := range notACode() {
@@ -196,6 +222,10 @@ func TestLoadReadsNoPageTwice(t *testing.T) {
 		{"a circle of Size bytes", sheaf{2: leafPage(long("a", 3, 384)), 3: overPage(3, ninetySix)}, 2},
 		{"a circle of ValMax bytes", sheaf{2: leafPage(long("a", 3, 400)), 3: overPage(3, ninetySix)}, 2},
 		{"a chain of two pages in a circle", sheaf{2: leafPage(long("a", 3, 200)), 3: overPage(4, ninetySix), 4: overPage(3, ninetySix)}, 2},
+		{"two children of a root on page 0", smallSheaf().with(0, branchPage(kid("", 3), kid("c", 3))), 0},
+		{"children of two parents below a root on page 0", deepSheaf().moved(3, 0).with(4, branchPage(kid("", 8), kid("g", 5))), 0},
+		{"two chains of one leaf on page 0", sheaf{0: leafPage(long("a", 3, 50), long("b", 3, 50)), 3: overPage(0, ninetySix[:50])}, 0},
+		{"a circle below a leaf on page 0", sheaf{0: leafPage(long("a", 3, 384)), 3: overPage(3, ninetySix)}, 0},
 		{"a chain that comes back to its second page", sheaf{2: leafPage(long("a", 3, 392)), 3: overPage(4, ninetySix), 4: overPage(5, ninetySix), 5: overPage(4, ninetySix)}, 2},
 	} {
 		wantNoLoad(t, row.what, row.pages.disk(), "f", row.root)
@@ -282,6 +312,9 @@ func TestLoadOfTreesThatAreNotValid(t *testing.T) {
 		{"keys that overlap far away", deepSheaf().with(8, lettersLeaf("cz")), 3},
 		{"leaves not equally deep", deepSheaf().with(7, lettersLeaf("ab")), 3},
 		{"leaves not equally deep at the end", deepSheaf().with(4, lettersLeaf("ef")), 3},
+		{"a Sep of a root on page 0", smallSheaf().with(0, branchPage(kid("", 3), kid("d", 2))), 0},
+		{"a leaf of one key below a root on page 0", smallSheaf().moved(4, 0).with(3, lettersLeaf("a")), 0},
+		{"leaves not equally deep below a root on page 0", deepSheaf().moved(3, 0).with(4, lettersLeaf("ef")), 0},
 		{"a branch too deep", deepSheaf().with(9, branchPage(kid("", 10), kid("b", 11))).with(10, lettersLeaf("ab")).with(11, lettersLeaf("bc")), 3},
 	} {
 		wantNoLoad(t, row.what, row.pages.disk(), "f", row.root)

@@ -28,6 +28,7 @@ func TestPagerMemory(t *testing.T) {
 		d, root := r.onDisk(r.sheaf(x)), x.Nodes[0].Page
 		callCleanly(t, "LoadTree", impl.LoadTree, d, "f", root)
 		callCleanly(t, "LoadTree of no root", impl.LoadTree, d, "f", int64(1))
+		callCleanly(t, "LoadTree from page 0 on", impl.LoadTree, r.onDisk(r.sheaf(x).moved(root, 0)), "f", int64(0))
 		callCleanly(t, "LoadTree of no file", impl.LoadTree, d, "g", root)
 		callCleanly(t, "LoadTree of a spoilt disk", impl.LoadTree, r.spoilt(d), "f", root)
 		callCleanly(t, "ReadMeta", impl.ReadMeta, d, "f")

@@ -141,6 +141,7 @@ func (r dice) onDisk(s sheaf) impl.Disk {
 func TestLoadIsTheModel(t *testing.T) {
 	r := newDice(44)
 	counts := map[bool]int{}
+	fromZero := 0
 	for i := range 1500 {
 		x := r.paged(r.tree(int(r.pick(0, 1, 2, 4, 5, 9, 20, 40))))
 		s := r.sheaf(x)
@@ -153,6 +154,10 @@ func TestLoadIsTheModel(t *testing.T) {
 		for range r.Intn(3) {
 			s = r.spoiltSheaf(s)
 		}
+		// A node's code on a page that is no page number: a tree may be read from page 0 on.
+		if at := x.Nodes[r.Intn(len(x.Nodes))].Page; r.Intn(2) == 0 && s[at].Kind != 0 {
+			s = s.with(r.pick(0, 0, 1), s[at])
+		}
 		d := r.onDisk(s)
 		if r.Intn(20) == 0 {
 			d = r.spoilt(d)
@@ -164,14 +169,17 @@ func TestLoadIsTheModel(t *testing.T) {
 				t.Fatalf("%s, root %d: %v %d, %s\nwant %v %d, %s", what, root, got.Ok, got.Pages, show(got.Tree), want.Ok, want.Pages, show(want.Tree))
 			}
 			counts[got.Ok]++
+			if got.Ok && root == 0 {
+				fromZero++
+			}
 		}
 		if t.Failed() {
 			t.Fatal(show(x))
 		}
 	}
 	// The dice must have thrown both answers, or the comparison tells little.
-	if counts[true] < 1000 || counts[false] < 1000 {
-		t.Errorf("loaded %d times, not loaded %d times", counts[true], counts[false])
+	if counts[true] < 1000 || counts[false] < 1000 || fromZero < 50 {
+		t.Errorf("loaded %d times, %d of them from page 0 on, not loaded %d times", counts[true], fromZero, counts[false])
 	}
 }
 

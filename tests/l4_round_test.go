@@ -121,6 +121,34 @@ func TestBulkTreesAreLoaded(t *testing.T) {
 	}
 }
 
+// A root that was read from page 0 is told as a dirty one: Place gives a page to it, and to nothing else.
+func TestATreeFromPageZeroIsPlaced(t *testing.T) {
+	for _, row := range []struct {
+		what    string
+		pages   sheaf
+		picture string
+	}{
+		{"a leaf", sheaf{0: lettersLeaf("ab")}, "ab:10"},
+		{"a leaf with a long value", longSheaf().moved(2, 0), "c^7d:10"},
+		{"a branch", longSheaf().moved(4, 0), "(a^5b:3 c^7d:2):10"},
+		{"three levels", deepSheaf().moved(3, 0), "((ab:9 cd:8):7 (ef:6 gh:5):4):10"},
+	} {
+		d := row.pages.disk()
+		first := impl.LoadTree(d, "f", 0)
+		taken := append(slices.Clone(first.Pages), 2, 3, 4, 5, 6, 7, 8, 9)
+		placed := impl.Place(first.Tree, 2, taken)
+		if !first.Ok || !slices.Equal(placed.Nums, []int64{10}) {
+			t.Errorf("%s: loaded %v, placed on %d", row.what, first.Ok, placed.Nums)
+			continue
+		}
+		wantTree(t, row.what, placed.Tree, draw(row.picture))
+		d, _ = wantRound(t, row.what, d, first.Tree, 2, first.Pages, taken)
+		if !sameLoad(impl.LoadTree(d, "f", 0), first) {
+			t.Errorf("%s: the tree of page 0 is another one now", row.what)
+		}
+	}
+}
+
 func TestValuesOfEverySizeAreLoaded(t *testing.T) {
 	for _, size := range []int{0, 1, impl.InlineMax, impl.InlineMax + 1, impl.OverBytes - 1, impl.OverBytes, impl.OverBytes + 1, 2*impl.OverBytes - 1, 2 * impl.OverBytes, 2*impl.OverBytes + 1, 4 * impl.OverBytes, 4*impl.OverBytes + 1, impl.ValMax - 1, impl.ValMax} {
 		var pairs []impl.Pair
