@@ -176,19 +176,29 @@ func modelSteps(d impl.Disk, name string, nums []int64, pages [][]byte, meta imp
 		steps = append(steps, func(d impl.Disk) impl.DiskRes { return modelWrite(d, name, num, pages[i]) })
 	}
 	steps = append(steps, modelSync, func(d impl.Disk) impl.DiskRes { return modelWrite(d, name, meta.Tx%2, modelNew(meta)) }, modelSync)
+	err, d := modelRun(d, steps)
+	switch err {
+	case impl.DiskFull:
+		return impl.StFull, d
+	case impl.DiskLost:
+		return impl.StLost, d
+	}
+	return impl.StOk, d
+}
+
+// modelRun does steps until one fails, and answers with its Err and the disk where it stopped.
+func modelRun(d impl.Disk, steps []func(impl.Disk) impl.DiskRes) (int64, impl.Disk) {
 	for _, step := range steps {
 		r := step(d)
 		d = r.Disk
 		switch r.Err {
 		case impl.DiskBad:
 			panic("the model's step is wrong")
-		case impl.DiskFull:
-			return impl.StFull, d
-		case impl.DiskLost:
-			return impl.StLost, d
+		case impl.DiskFull, impl.DiskLost:
+			return r.Err, d
 		}
 	}
-	return impl.StOk, d
+	return impl.DiskOk, d
 }
 
 func modelCreate(d impl.Disk, name string, id int64) impl.StoreRes {
