@@ -47,36 +47,53 @@ func wantChangesRefused(t *testing.T, what string, b []byte, bits ...byte) {
 	}
 }
 
-// Every stream of a drawn backup, full or on a base, is given back; with a byte less, or another one, it is refused.
+// Every stream of a drawn backup, full or on a base, is given back.
 func TestStreamsOfBackups(t *testing.T) {
-	full, based, torn := 0, 0, 0
+	full, based := 0, 0
 	for seed := range int64(30) {
 		r := newDice(900 + seed)
 		s := r.pinnedStore(t, r.keys(int(r.pick(3, 8, 20))))
 		for _, pin := range s.Pins {
 			for _, base := range r.bases(pin) {
-				what := fmt.Sprint("seed ", seed, " pin ", pin.Id, " on ", base)
 				b := started(t, s, pin.Id, base)
-				answers := answersOf(t, s, b)
-				wantGivenBack(t, what, answers, s, b)
+				wantGivenBack(t, fmt.Sprint("seed ", seed, " pin ", pin.Id, " on ", base), answersOf(t, s, b), s, b)
 				if base == 0 {
 					full++
 				} else {
 					based++
 				}
-				if stream := streamOf(answers); len(stream) < 3000 && r.Intn(8) == 0 {
-					torn++
-					wantCutsRefused(t, what, stream)
-					wantChangesRefused(t, what, stream, 1, 0x80, 0xff, byte(1+r.Intn(255)))
-				}
+			}
+		}
+	}
+	if full < 50 || based < 50 {
+		t.Errorf("%d full, %d on a base", full, based)
+	}
+}
+
+// Every stream of a drawn pin, with its end gone or one byte changed, at every place, is refused.
+func TestTornStreams(t *testing.T) {
+	full, based := 0, 0
+	for seed := range int64(32) {
+		r := newDice(950 + seed)
+		s := r.pinnedStore(t, r.keys(int(r.pick(3, 8, 20))))
+		pin := s.Pins[r.Intn(len(s.Pins))]
+		for _, base := range r.bases(pin) {
+			what := fmt.Sprint("seed ", seed, " pin ", pin.Id, " on ", base)
+			stream := backedUp(t, s, pin.Id, base)
+			wantCutsRefused(t, what, stream)
+			wantChangesRefused(t, what, stream, 1<<r.Intn(8), byte(1+r.Intn(255)))
+			if base == 0 {
+				full++
+			} else {
+				based++
 			}
 		}
 		if t.Failed() {
 			t.FailNow()
 		}
 	}
-	if full < 50 || based < 50 || torn < 12 {
-		t.Errorf("%d full, %d on a base, %d torn", full, based, torn)
+	if full < 32 || based < 20 {
+		t.Errorf("%d full, %d on a base", full, based)
 	}
 }
 
