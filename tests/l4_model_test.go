@@ -114,10 +114,12 @@ func (r dice) spoilEnts(p *impl.Page, number int64) {
 	}
 }
 
-// onDisk lays the file somewhere between files and cache, beside others.
-func (r dice) onDisk(s sheaf) impl.Disk {
-	d := s.disk()
-	data := d.Files[0].Data
+// onDisk lays the file somewhere between files and cache.
+func (r dice) onDisk(s sheaf) impl.Disk { return r.scattered(s.codes().data()) }
+
+// scattered has the file f durable, in the cache, or a part of it here and a part there.
+func (r dice) scattered(data []byte) impl.Disk {
+	d := impl.Disk{Files: []impl.File{{Name: "f", Data: data}}, Cap: impl.CapMax, Fuel: -1}
 	if r.Intn(2) == 0 {
 		return d
 	}
